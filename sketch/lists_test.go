@@ -11,8 +11,7 @@ import (
 
 type counts = []sketch.Count
 
-// P3.1. The chapter's example of Short with k 2 has N 1; its terms, and P3.6
-// (at least 3 less 5/3, rounded down), make N 2.
+// P3.1
 func TestShort(t *testing.T) {
 	tests := []struct {
 		k      int
